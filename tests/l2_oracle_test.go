@@ -1,6 +1,7 @@
 package tests
 
 import (
+	"math/rand"
 	"slices"
 	"strconv"
 	"strings"
@@ -91,6 +92,16 @@ func (w *walker) asks(at int) string {
 
 // askedBy returns what a run with choices asks for that are too few; the empty string if they are enough or not right.
 func askedBy(p, choices string) string { return walkedOf(p, choices).asks }
+
+// choicesAtRandom chooses what a run asks for at random, up to one choice more than there may be.
+func choicesAtRandom(random *rand.Rand, p string) string {
+	choices := ""
+	for asks := askedBy(p, choices); asks != "" && len(choices) <= 20; asks = askedBy(p, choices) {
+		i := random.Intn(len(asks))
+		choices += asks[i : i+1]
+	}
+	return choices
+}
 
 func (w *walker) chosen(at int, choice byte) bool {
 	loop := at

@@ -300,14 +300,9 @@ func TestRunsOfProgramsAtRandom(t *testing.T) {
 		for _, choices := range list {
 			checkRun(t, p, choices)
 		}
-		// Longer ones: what a run asks for is chosen at random, up to one choice more than there may be.
+		// Longer ones, of which some are too long.
 		for range 3 {
-			choices := ""
-			for asks := askedBy(p, choices); asks != "" && len(choices) <= 20; asks = askedBy(p, choices) {
-				i := random.Intn(len(asks))
-				choices += asks[i : i+1]
-			}
-			checkRun(t, p, choices)
+			checkRun(t, p, choicesAtRandom(random, p))
 		}
 	}
 }
