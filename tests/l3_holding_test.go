@@ -236,37 +236,24 @@ func TestBytesThatAreNoPoints(t *testing.T) {
 // TestKnownOfTextsNextToPrograms leaves out, replaces and puts in bytes of programs.
 func TestKnownOfTextsNextToPrograms(t *testing.T) {
 	for _, p := range programs {
-		for i := range len(p) + 1 {
-			if i < len(p) {
-				checkChapter3(t, p[:i]+p[i+1:])
-			}
-			for _, b := range []string{"^", "~", "+a", "-a", "a", "}", "\x00"} {
-				checkChapter3(t, p[:i]+b+p[i:])
-				if i < len(p) {
-					checkChapter3(t, p[:i]+b+p[i+1:])
-				}
-			}
+		for _, text := range textsNextTo(p, "^", "~", "+a", "-a", "a", "}", "\x00") {
+			checkChapter3(t, text)
 		}
 	}
 }
 
 // TestKnownOfLongPrograms has programs as long as they may be, with as many loops within each other as there can be.
 func TestKnownOfLongPrograms(t *testing.T) {
-	for _, p := range []string{
-		"{a:" + strings.Repeat("^", 76) + "}",
-		"{a:" + strings.Repeat("+a", 38) + "}",
-		"{a:" + strings.Repeat("*[", 24) + "+a" + strings.Repeat("]", 24) + "~a}",
-		"{a:" + strings.Repeat("*[~a", 14) + "+a" + strings.Repeat("]", 14) + "}",
-		"{a:" + strings.Repeat("*[.a", 14) + "+a" + strings.Repeat("]", 14) + "}",
-		"{abcdef:*[" + "?[=fe][]?[=ed][]?[=dc][]?[=cb][]?[=ba][]+a" + "]}",
-		"{abcdef:+a+b+c+d+e+f*[" + ".f?[-f][.e?[-e][.d?[-d][.c?[-c][]]]]" + "]}",
-		"{a:*[{b:*[{c:*[{d:" + strings.Repeat("?[+d][]", 6) + "}]}]}]}",
-	} {
-		if !impl.ProgramValid(p) {
-			t.Errorf("ProgramValid(%q) = false", p)
-		}
-		checkChapter3(t, p)
-	}
+	checkValid(t, checkChapter3,
+		"{a:"+strings.Repeat("^", 76)+"}",
+		"{a:"+strings.Repeat("+a", 38)+"}",
+		"{a:"+strings.Repeat("*[", 24)+"+a"+strings.Repeat("]", 24)+"~a}",
+		"{a:"+strings.Repeat("*[~a", 14)+"+a"+strings.Repeat("]", 14)+"}",
+		"{a:"+strings.Repeat("*[.a", 14)+"+a"+strings.Repeat("]", 14)+"}",
+		"{abcdef:*["+"?[=fe][]?[=ed][]?[=dc][]?[=cb][]?[=ba][]+a"+"]}",
+		"{abcdef:+a+b+c+d+e+f*["+".f?[-f][.e?[-e][.d?[-d][.c?[-c][]]]]"+"]}",
+		"{a:*[{b:*[{c:*[{d:"+strings.Repeat("?[+d][]", 6)+"}]}]}]}",
+	)
 }
 
 func TestKnownOfProgramsAtRandom(t *testing.T) {

@@ -91,3 +91,27 @@ func (m *maker) variable() string {
 	i := m.random.Intn(len(m.around))
 	return m.around[i : i+1]
 }
+
+// textsNextTo returns the texts that come of a program when one byte is left out, or some others are put in or replace it.
+func textsNextTo(p string, others ...string) []string {
+	var list []string
+	for i := range len(p) + 1 {
+		ahead, behind := p[:i], p[min(i+1, len(p)):]
+		list = append(list, ahead+behind)
+		for _, text := range others {
+			list = append(list, ahead+text+behind, ahead+text+p[i:])
+		}
+	}
+	return list
+}
+
+// checkValid checks texts that must be programs.
+func checkValid(t *testing.T, check func(*testing.T, string), list ...string) {
+	t.Helper()
+	for _, p := range list {
+		if !impl.ProgramValid(p) {
+			t.Errorf("ProgramValid(%q) = false", p)
+		}
+		check(t, p)
+	}
+}
