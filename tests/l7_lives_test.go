@@ -255,18 +255,10 @@ func checkEarly(t *testing.T, text string) {
 
 // TestEventsOfRuns has what programs do, which has no limit of events.
 func TestEventsOfRuns(t *testing.T) {
-	random := rand.New(rand.NewSource(73))
-	for _, p := range append(randomPrograms(t, 74, 400), programs...) {
-		list, _ := impl.AllChoices(p, 4)
-		for _, choices := range append(list, choicesAtRandom(random, p)) {
-			text, ok := impl.EventsOf(p, choices)
-			if !ok {
-				continue
-			}
-			checkChapter7(t, text)
-			if len(strings.Fields(text)) <= 600 {
-				checkEarly(t, text)
-			}
+	for _, text := range eventsOfRuns(t, 73, 400) {
+		checkChapter7(t, text)
+		if len(strings.Fields(text)) <= 600 {
+			checkEarly(t, text)
 		}
 	}
 	long := "{a:*[" + strings.Repeat("+a", 30) + "]}"

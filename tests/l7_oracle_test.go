@@ -224,6 +224,22 @@ func wordsAtRandom(random *rand.Rand, count int) []string {
 	return words
 }
 
+// eventsOfRuns returns the events of runs of programs at random, and of some that are not.
+func eventsOfRuns(t *testing.T, seed int64, count int) []string {
+	t.Helper()
+	random := rand.New(rand.NewSource(seed))
+	var texts []string
+	for _, p := range append(randomPrograms(t, seed+1, count), programs...) {
+		list, _ := impl.AllChoices(p, 4)
+		for _, choices := range append(list, choicesAtRandom(random, p)) {
+			if text, ok := impl.EventsOf(p, choices); ok {
+				texts = append(texts, text)
+			}
+		}
+	}
+	return texts
+}
+
 // wordsNextTo returns what comes of words when one is left out, told twice, or trades places with the next one.
 func wordsNextTo(words []string) [][]string {
 	var list [][]string

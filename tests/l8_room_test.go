@@ -217,18 +217,10 @@ func TestCellsAtRandom(t *testing.T) {
 
 // TestRoomOfRuns has what programs do, which may be more events than are valid.
 func TestRoomOfRuns(t *testing.T) {
-	random := rand.New(rand.NewSource(85))
-	for _, p := range append(randomPrograms(t, 86, 300), programs...) {
-		list, _ := impl.AllChoices(p, 4)
-		for _, choices := range append(list, choicesAtRandom(random, p)) {
-			text, ok := impl.EventsOf(p, choices)
-			if !ok {
-				continue
-			}
-			checkChapter8(t, text)
-			if early, ok := impl.EarlyEvents(text); ok {
-				checkChapter8(t, early)
-			}
+	for _, text := range eventsOfRuns(t, 85, 300) {
+		checkChapter8(t, text)
+		if early, ok := impl.EarlyEvents(text); ok {
+			checkChapter8(t, early)
 		}
 	}
 	long := "{a:*[" + strings.Repeat("+a", 30) + "]}"
