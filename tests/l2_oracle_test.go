@@ -257,3 +257,18 @@ func listedOf(p string, texts []string) []string {
 	}
 	return list
 }
+
+// checkRuns checks the runs of programs with at most n choices, and some longer ones at random.
+func checkRuns(t *testing.T, seed int64, list []string, n int, check func(t *testing.T, p, choices string)) {
+	t.Helper()
+	random := rand.New(rand.NewSource(seed))
+	for _, p := range list {
+		short, _ := impl.AllChoices(p, n)
+		for _, choices := range short {
+			check(t, p, choices)
+		}
+		for range 3 {
+			check(t, p, choicesAtRandom(random, p))
+		}
+	}
+}

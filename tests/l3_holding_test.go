@@ -1,7 +1,6 @@
 package tests
 
 import (
-	"math/rand"
 	"slices"
 	"strings"
 	"testing"
@@ -283,21 +282,11 @@ func checkVisits(t *testing.T, p, choices string) {
 }
 
 func TestWhatIsKnownHoldsInEachRun(t *testing.T) {
-	random := rand.New(rand.NewSource(32))
 	list := append(randomPrograms(t, 33, 500), programs...)
 	for _, c := range loopsHeldAt {
 		list = append(list, c.p)
 	}
-	for _, p := range slices.Compact(list) {
-		short, _ := impl.AllChoices(p, 6)
-		for _, choices := range short {
-			checkVisits(t, p, choices)
-		}
-		// Longer ones.
-		for range 3 {
-			checkVisits(t, p, choicesAtRandom(random, p))
-		}
-	}
+	checkRuns(t, 32, slices.Compact(list), 6, checkVisits)
 }
 
 // TestKnownOfStraightProgramsIsWhatTheirRunHolds has programs with one run, which tells all that there is to know.

@@ -1,7 +1,6 @@
 package tests
 
 import (
-	"math/rand"
 	"slices"
 	"strings"
 	"testing"
@@ -202,21 +201,11 @@ func TestPlansOfProgramsAtRandom(t *testing.T) {
 }
 
 func TestPlansHoldInEachRun(t *testing.T) {
-	random := rand.New(rand.NewSource(52))
 	list := append(randomPrograms(t, 53, 500), programs...)
 	for _, c := range plans {
 		list = append(list, c.p)
 	}
-	for _, p := range list {
-		short, _ := impl.AllChoices(p, 5)
-		for _, choices := range short {
-			checkRunByPlans(t, p, choices)
-		}
-		// Longer ones.
-		for range 3 {
-			checkRunByPlans(t, p, choicesAtRandom(random, p))
-		}
-	}
+	checkRuns(t, 52, list, 5, checkRunByPlans)
 }
 
 // TestPlansOfStraightProgramsAreSure has programs with one run, of which it is known what each variable holds.
