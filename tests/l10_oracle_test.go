@@ -219,10 +219,5 @@ func unsimplified(random *rand.Rand, p string) string {
 // programsToSimplify returns programs at random, most of which can be made simpler.
 func programsToSimplify(t *testing.T, seed int64, count int) []string {
 	t.Helper()
-	random := rand.New(rand.NewSource(seed))
-	list := append(randomPrograms(t, seed+1, count), programs...)
-	for i, p := range list {
-		list[i] = unsimplified(random, p)
-	}
-	return list
+	return changedPrograms(t, seed, count, unsimplified)
 }

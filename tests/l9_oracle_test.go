@@ -283,10 +283,5 @@ func withExits(random *rand.Rand, p string) string {
 // programsWithExits returns programs at random, most of them with several exits.
 func programsWithExits(t *testing.T, seed int64, count int) []string {
 	t.Helper()
-	random := rand.New(rand.NewSource(seed))
-	list := append(randomPrograms(t, seed+1, count), programs...)
-	for i, p := range list {
-		list[i] = withExits(random, p)
-	}
-	return list
+	return changedPrograms(t, seed, count, withExits)
 }

@@ -92,6 +92,17 @@ func (m *maker) variable() string {
 	return m.around[i : i+1]
 }
 
+// changedPrograms returns programs at random, and the ordinary ones, each of them changed at random.
+func changedPrograms(t *testing.T, seed int64, count int, change func(random *rand.Rand, p string) string) []string {
+	t.Helper()
+	random := rand.New(rand.NewSource(seed))
+	list := append(randomPrograms(t, seed+1, count), programs...)
+	for i, p := range list {
+		list[i] = change(random, p)
+	}
+	return list
+}
+
 // textsNextTo returns the texts that come of a program when one byte is left out, or some others are put in or replace it.
 func textsNextTo(p string, others ...string) []string {
 	var list []string
