@@ -19,9 +19,15 @@ type maker struct {
 func randomPrograms(t *testing.T, seed int64, count int) []string {
 	t.Helper()
 	m := &maker{random: rand.New(rand.NewSource(seed))}
+	return madePrograms(t, count, func() string { return m.scope(4 + m.random.Intn(77)) })
+}
+
+// madePrograms returns programs that a function makes; those that get too long are left out.
+func madePrograms(t *testing.T, count int, made func() string) []string {
+	t.Helper()
 	var list []string
 	for len(list) < count {
-		p := m.scope(4 + m.random.Intn(77))
+		p := made()
 		if len(p) > 80 {
 			continue
 		}
